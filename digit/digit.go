@@ -58,21 +58,20 @@ func natural(s string, longest int) (uint64, api.Errno) {
 	}
 	isDigit := func(place int) bool { return '0' <= s[place] && s[place] <= '9' }
 	var w uint64
-	place, over := 0, false
+	place := 0
 next:
 	if !isDigit(place) {
 		return 0, api.ErrForm
 	}
 	d := uint64(s[place] - '0')
-	// Only noted: a byte behind that is no digit comes ahead of the range.
-	over = over || w > (math.MaxUint64-d)/10
+	// No ErrForm is missed here: only a twentieth digit goes beyond a word, and none is behind it.
+	if w > (math.MaxUint64-d)/10 {
+		return 0, api.ErrRange
+	}
 	w = 10*w + d
 	place++
 	if place < len(s) {
 		goto next
-	}
-	if over {
-		return 0, api.ErrRange
 	}
 	return w, api.OK
 }
